@@ -57,32 +57,50 @@ func TestPromise11Lists(t *testing.T) {
 // TestPromise11FreshResults: a result that is changed changes no other one, now or in a later call.
 func TestPromise11FreshResults(t *testing.T) {
 	b := "**../...*/*..*"
-	calls := map[string]func() []int{
+	checkFresh(t, map[string]func() []int{
 		"MinesOf":      func() []int { list, _ := impl.MinesOf(b); return list },
 		"NeighboursOf": func() []int { list, _ := impl.NeighboursOf(b, 5); return list },
 		"NumbersOf":    func() []int { list, _ := impl.NumbersOf(b); return list },
 		"ZerosOf":      func() []int { list, _ := impl.ZerosOf("*.../..../...."); return list },
 		"LonelyMines":  func() []int { list, _ := impl.LonelyMines(b); return list },
-	}
+	})
+	checkFreshLists(t, "GroupsOfMines", func() [][]int { groups, _ := impl.GroupsOfMines(b); return groups })
+}
+
+// checkFresh: what a call returns is its own.
+func checkFresh(t *testing.T, calls map[string]func() []int) {
+	t.Helper()
 	for name, call := range calls {
 		list := call()
 		before := fmt.Sprint(list)
+		if len(list) == 0 {
+			t.Errorf("%s returns nothing that could be changed", name)
+		}
 		spoil(list)
 		if again := fmt.Sprint(call()); again != before {
 			t.Errorf("%s: %s, %s when called again", name, before, again)
 		}
 	}
-	groups, _ := impl.GroupsOfMines(b)
-	for i := range groups {
-		spoil(groups[i])
-		for k := i + 1; k < len(groups); k++ {
-			if slices.Contains(groups[k], -5) {
-				t.Fatalf("GroupsOfMines %s: the groups %d and %d share memory", b, i, k)
+}
+
+// checkFreshLists: so are all lists of it.
+func checkFreshLists(t *testing.T, name string, call func() [][]int) {
+	t.Helper()
+	lists := call()
+	before := fmt.Sprint(lists)
+	if len(lists) < 2 {
+		t.Errorf("%s returns %s, no lists that could share memory", name, before)
+	}
+	for i := range lists {
+		spoil(lists[i])
+		for k := i + 1; k < len(lists); k++ {
+			if slices.Contains(lists[k], -5) {
+				t.Fatalf("%s: the lists %d and %d share memory", name, i, k)
 			}
 		}
 	}
-	if again := two(impl.GroupsOfMines(b)); again != "[[0 1] [7 11] [8]] true" {
-		t.Errorf("GroupsOfMines %s when called again: %s", b, again)
+	if again := fmt.Sprint(call()); again != before {
+		t.Errorf("%s: %s, %s when called again", name, before, again)
 	}
 }
 
