@@ -20,29 +20,39 @@ type spot struct {
 	column int
 }
 
-// grid is a board whose text was checked: the signs of its cells, row by row.
-// The grid of a text that is no board has no cells.
+// grid is a board, or another text of such rows, that was checked: the signs of its cells, row by row.
+// The grid of a text that is none has no cells.
 type grid struct {
 	width  int
 	height int
 	signs  []byte
 }
 
-// readBoard returns the grid of a board, newly made so that it may be changed.
+// readBoard returns the grid of a board.
 func readBoard(b string) (grid, bool) {
-	if len(b) > maxBoardText {
+	return readGrid(b, isBoardSign)
+}
+
+// readGrid returns the grid of rows as a board has them, newly made so that it may be changed. It fails if a cell has another sign than there may be.
+func readGrid(s string, isSign func(sign byte) bool) (grid, bool) {
+	if len(s) > maxBoardText {
 		return grid{}, false
 	}
-	rows := strings.Split(b, rowBreak)
+	rows := strings.Split(s, rowBreak)
 	g := grid{width: len(rows[0]), height: len(rows)}
 	if !isSize(g.width, g.height) {
 		return grid{}, false
 	}
 	for _, row := range rows {
-		if len(row) != g.width || !hasBoardSigns(row) {
+		if len(row) != g.width {
 			return grid{}, false
 		}
 		g.signs = append(g.signs, row...)
+	}
+	for _, sign := range g.signs {
+		if !isSign(sign) {
+			return grid{}, false
+		}
 	}
 	return g, true
 }
@@ -50,10 +60,15 @@ func readBoard(b string) (grid, bool) {
 // readBoardWith returns the grid of a board that has a cell.
 func readBoardWith(b string, cell int) (grid, bool) {
 	g, ok := readBoard(b)
-	if !ok || cell < 0 || cell >= len(g.signs) {
+	if !ok || !g.hasCell(cell) {
 		return grid{}, false
 	}
 	return g, true
+}
+
+// hasCell reports whether there is a cell.
+func (g grid) hasCell(cell int) bool {
+	return cell >= 0 && cell < len(g.signs)
 }
 
 // isSize reports whether boards may have a width and a height.
@@ -61,14 +76,9 @@ func isSize(width int, height int) bool {
 	return width >= 1 && width <= MaxSide && height >= 1 && height <= MaxSide
 }
 
-// hasBoardSigns reports whether all signs of a row are those of free cells and mines.
-func hasBoardSigns(row string) bool {
-	for i := 0; i < len(row); i++ {
-		if row[i] != freeSign && row[i] != mineSign {
-			return false
-		}
-	}
-	return true
+// isBoardSign reports whether a sign is that of a free cell or a mine.
+func isBoardSign(sign byte) bool {
+	return sign == freeSign || sign == mineSign
 }
 
 // freeGrid returns a grid without mines.

@@ -170,19 +170,7 @@ func TestFullAndFreeBoards(t *testing.T) {
 // TestIsBoardOfShortTexts tries all texts of up to seven signs.
 func TestIsBoardOfShortTexts(t *testing.T) {
 	board := regexp.MustCompile(`\A(?:[.*](?:/[.*])*|[.*]{2}(?:/[.*]{2})*|[.*]{3}(?:/[.*]{3})*|[.*]{4,7})\z`)
-	texts := []string{""}
-	for range 8 {
-		for _, s := range texts {
-			checkIsBoard(t, s, board.MatchString(s))
-		}
-		var longer []string
-		for _, s := range texts {
-			for _, sign := range []string{".", "*", "/", "?"} {
-				longer = append(longer, s+sign)
-			}
-		}
-		texts = longer
-	}
+	eachText([]string{".", "*", "/", "?"}, 7, func(s string) { checkIsBoard(t, s, board.MatchString(s)) })
 }
 
 func checkIsBoard(t *testing.T, s string, want bool) {

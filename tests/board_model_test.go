@@ -146,6 +146,21 @@ func eachBoard(call func(b string)) {
 	}
 }
 
+// eachText calls a function with all texts of up to so many signs out of some.
+func eachText(signs []string, most int, call func(s string)) {
+	texts := []string{""}
+	for range most + 1 {
+		var longer []string
+		for _, s := range texts {
+			call(s)
+			for _, sign := range signs {
+				longer = append(longer, s+sign)
+			}
+		}
+		texts = longer
+	}
+}
+
 // same fails the test unless what a call returned is told as what is wanted, and its last result is true.
 func same(t *testing.T, call string, got any, ok bool, want any) {
 	t.Helper()
