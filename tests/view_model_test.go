@@ -145,15 +145,7 @@ func viewOf(b string, hidden []int) string {
 
 // eachView calls a function with all views of up to four cells and small numbers, and with some of every size, of up to seven hidden cells, that a board fits or none does.
 func eachView(call func(v string)) {
-	eachText([]string{"?", "0", "1", "2", "3"}, 4, func(s string) {
-		if s != "" {
-			call(s)
-			call(strings.Join(strings.Split(s, ""), "/"))
-		}
-		if len(s) == 4 {
-			call(s[:2] + "/" + s[2:])
-		}
-	})
+	eachSmall([]string{"?", "0", "1", "2", "3"}, call)
 	z := 1
 	next := func(below int) int {
 		z = (z*149 + 2719) % 10007
@@ -183,4 +175,17 @@ func withOtherDigit(v string, place int, number int) string {
 		return v
 	}
 	return v[:place] + string(rune('0'+number)) + v[place+1:]
+}
+
+// eachSmall calls a function with all rows and columns of up to four signs out of some, and all squares of four.
+func eachSmall(signs []string, call func(v string)) {
+	eachText(signs, 4, func(s string) {
+		if s != "" {
+			call(s)
+			call(strings.Join(strings.Split(s, ""), "/"))
+		}
+		if len(s) == 4 {
+			call(s[:2] + "/" + s[2:])
+		}
+	})
 }
