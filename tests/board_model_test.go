@@ -146,6 +146,15 @@ func eachBoard(call func(b string)) {
 	}
 }
 
+// nextNumbers returns a function that tells numbers below others, the same ones each time.
+func nextNumbers() func(below int) int {
+	z := 1
+	return func(below int) int {
+		z = (z*149 + 2719) % 10007
+		return z % below
+	}
+}
+
 // eachText calls a function with all texts of up to so many signs out of some.
 func eachText(signs []string, most int, call func(s string)) {
 	texts := []string{""}

@@ -180,11 +180,7 @@ func eachNotes(call func(v string)) {
 			call("????/" + s + "/????")
 		}
 	})
-	z := 1
-	next := func(below int) int {
-		z = (z*149 + 2719) % 10007
-		return z % below
-	}
+	next := nextNumbers()
 	for width := 1; width <= 8; width++ {
 		for height := 1; height <= 8; height++ {
 			for range 6 {

@@ -146,11 +146,7 @@ func viewOf(b string, hidden []int) string {
 // eachView calls a function with all views of up to four cells and small numbers, and with some of every size, of up to seven hidden cells, that a board fits or none does.
 func eachView(call func(v string)) {
 	eachSmall([]string{"?", "0", "1", "2", "3"}, call)
-	z := 1
-	next := func(below int) int {
-		z = (z*149 + 2719) % 10007
-		return z % below
-	}
+	next := nextNumbers()
 	for width := 1; width <= 8; width++ {
 		for height := 1; height <= 8; height++ {
 			for range 6 {
