@@ -21,11 +21,12 @@ type spot struct {
 }
 
 // grid is a board, or another text of such rows, that was checked: the signs of its cells, row by row.
-// The grid of a text that is none has no cells.
+// The grid of a text that is none has no cells. In one that is joined, the first and last rows, and columns, are beside each other.
 type grid struct {
-	width  int
-	height int
-	signs  []byte
+	width    int
+	height   int
+	signs    []byte
+	isJoined bool
 }
 
 // readBoard returns the grid of a board.
@@ -135,7 +136,7 @@ func (g grid) neighbours(cell int) []int {
 	at := g.spotOf(cell)
 	var near []int
 	for other := range g.signs {
-		if areNeighbours(g.spotOf(other), at) {
+		if g.areNeighbours(g.spotOf(other), at) {
 			near = append(near, other)
 		}
 	}
@@ -153,9 +154,47 @@ func (g grid) number(cell int) int {
 	return count
 }
 
+// numbers returns the numbers of all cells, one after the other.
+func (g grid) numbers() []int {
+	var numbers []int
+	for cell := range g.signs {
+		numbers = append(numbers, g.number(cell))
+	}
+	return numbers
+}
+
+// picture returns the board with the digit of its number in each free cell.
+func (g grid) picture() string {
+	picture := freeGrid(g.width, g.height)
+	for cell, sign := range g.signs {
+		picture.signs[cell] = sign
+		if !g.isMine(cell) {
+			picture.signs[cell] = digit(g.number(cell))
+		}
+	}
+	return picture.text()
+}
+
+// sum returns the sum of the numbers of all free cells.
+func (g grid) sum() int {
+	sum := 0
+	for cell := range g.signs {
+		if !g.isMine(cell) {
+			sum += g.number(cell)
+		}
+	}
+	return sum
+}
+
 // areNeighbours reports whether two spots are different and touch, if only at a corner.
-func areNeighbours(a spot, b spot) bool {
-	return a != b && distance(a.row, b.row) <= 1 && distance(a.column, b.column) <= 1
+func (g grid) areNeighbours(a spot, b spot) bool {
+	return a != b && g.doTouch(a.row, b.row, g.height) && g.doTouch(a.column, b.column, g.width)
+}
+
+// doTouch reports whether two out of so many rows, or columns, are the same, or are beside each other.
+func (g grid) doTouch(a int, b int, count int) bool {
+	apart := distance(a, b)
+	return apart <= 1 || g.isJoined && apart == count-1
 }
 
 // distance returns how far two rows, or columns, are apart.
@@ -233,23 +272,13 @@ func NumberAt(b string, cell int) (int, bool) {
 // NumbersOf returns the numbers of all cells, one after the other.
 func NumbersOf(b string) ([]int, bool) {
 	g, ok := readBoard(b)
-	var numbers []int
-	for cell := range g.signs {
-		numbers = append(numbers, g.number(cell))
-	}
-	return numbers, ok
+	return g.numbers(), ok
 }
 
 // PictureOf returns the board with the digit of its number in each free cell.
 func PictureOf(b string) (string, bool) {
 	g, ok := readBoard(b)
-	for cell := range g.signs {
-		// A digit is no mine either, so the numbers of the cells to come stay the same.
-		if !g.isMine(cell) {
-			g.signs[cell] = digit(g.number(cell))
-		}
-	}
-	return g.text(), ok
+	return g.picture(), ok
 }
 
 // digit returns the sign of a number in 0..9.
@@ -260,13 +289,7 @@ func digit(number int) byte {
 // SumOfNumbers returns the sum of the numbers of all free cells.
 func SumOfNumbers(b string) (int, bool) {
 	g, ok := readBoard(b)
-	sum := 0
-	for cell := range g.signs {
-		if !g.isMine(cell) {
-			sum += g.number(cell)
-		}
-	}
-	return sum, ok
+	return g.sum(), ok
 }
 
 // PutMine returns the board with a mine in a free cell. It fails for others.
@@ -368,6 +391,11 @@ func (g grid) cellsWithoutMinesNear(sign byte) []int {
 // GroupsOfMines returns the mines in groups that hang together by neighbours, each increasing, in the order of their first ones.
 func GroupsOfMines(b string) ([][]int, bool) {
 	g, ok := readBoard(b)
+	return g.groupsOfMines(), ok
+}
+
+// groupsOfMines returns the mines in groups that hang together, each increasing, in the order of their first ones.
+func (g grid) groupsOfMines() [][]int {
 	left := g.mineSpots()
 	var groups [][]int
 	for _, cell := range g.mines() {
@@ -375,7 +403,7 @@ func GroupsOfMines(b string) ([][]int, bool) {
 			groups = append(groups, g.takeGroup(left, cell))
 		}
 	}
-	return groups, ok
+	return groups
 }
 
 // mineSpots returns the spots that have a mine.
@@ -392,7 +420,7 @@ func (g grid) takeGroup(left map[spot]bool, first int) []int {
 	group := []spot{g.spotOf(first)}
 	delete(left, group[0])
 	for done := 0; done < len(group); done++ {
-		group = append(group, takeNear(left, group[done])...)
+		group = append(group, g.takeNear(left, group[done])...)
 	}
 	var cells []int
 	for _, s := range group {
@@ -404,10 +432,10 @@ func (g grid) takeGroup(left map[spot]bool, first int) []int {
 }
 
 // takeNear takes the neighbours of a spot out of the spots that are left, and returns them in any order.
-func takeNear(left map[spot]bool, s spot) []spot {
+func (g grid) takeNear(left map[spot]bool, s spot) []spot {
 	var near []spot
 	for other := range left {
-		if areNeighbours(other, s) {
+		if g.areNeighbours(other, s) {
 			near = append(near, other)
 			delete(left, other)
 		}

@@ -2,15 +2,18 @@ package tests
 
 import (
 	"fmt"
+	"slices"
 	"strings"
 	"testing"
 )
 
 // model is a board told in another way than the program does, so that the two can be held against each other.
+// If it goes around, a way over an edge leads to the other side.
 type model struct {
 	width  int
 	height int
 	mine   [][]bool
+	around bool
 }
 
 func modelOf(b string) model {
@@ -37,10 +40,14 @@ func (m model) near(cell int) []int {
 	out := []int{}
 	for _, way := range ways {
 		row, column := cell/m.width+way[0], cell%m.width+way[1]
+		if m.around {
+			row, column = (row+m.height)%m.height, (column+m.width)%m.width
+		}
 		if row >= 0 && row < m.height && column >= 0 && column < m.width {
 			out = append(out, row*m.width+column)
 		}
 	}
+	slices.Sort(out)
 	return out
 }
 

@@ -55,10 +55,14 @@ type opening struct {
 	openings [][]int
 }
 
-func openingOf(b string) opening {
-	m := modelOf(b)
+func openingOf(b string) opening { return openingIn(modelOf(b)) }
+
+func openingIn(m model) opening {
 	return opening{model: m, groups: m.zeroGroups(), openings: m.openings()}
 }
+
+// fewest tells how many clicks open all free cells.
+func (o opening) fewest() int { return len(o.alone()) + len(o.groups) }
 
 // with are the indices of the openings that a cell is in.
 func (o opening) with(cell int) []int {

@@ -166,7 +166,7 @@ func TestPromise2FewestClicks(t *testing.T) {
 		if m.cells() > 9 {
 			return
 		}
-		open := openBySets(t, b, m)
+		open := openBySets(t, b, m, impl.OpenedBy)
 		all := open[len(open)-1]
 		fewest, ok := impl.FewestClicks(b)
 		same(t, "FewestClicks "+b, fewest, ok, fewestFor(open, 0, all))
@@ -184,16 +184,16 @@ func setOf(m model, cell int) int {
 	return 1 << slices.Index(m.pick(m.isFree), cell)
 }
 
-// openBySets tells for each set of clicks, free cells by bits, the cells that are open behind them, as bits.
-func openBySets(t *testing.T, b string, m model) []int {
+// openBySets tells for each set of clicks, free cells by bits, the cells that are open behind them, as bits, where a call tells what one click opens.
+func openBySets(t *testing.T, b string, m model, openedBy func(b string, cell int) ([]int, bool)) []int {
 	t.Helper()
 	free := m.pick(m.isFree)
 	open := make([]int, 1<<len(free))
 	for set := 1; set < len(open); set++ {
 		last := bits.Len(uint(set)) - 1
-		opened, ok := impl.OpenedBy(b, free[last])
+		opened, ok := openedBy(b, free[last])
 		if !ok {
-			t.Fatalf("OpenedBy %s %d fails", b, free[last])
+			t.Fatalf("a click on %s %d fails", b, free[last])
 		}
 		open[set] = open[set&^(1<<last)]
 		for _, cell := range opened {

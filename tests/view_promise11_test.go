@@ -78,6 +78,12 @@ func TestNothingGoesOn(t *testing.T) {
 		impl.CountFitting("1?0", -1)
 		impl.SureMines("?1?", 1)
 	}
+	checkGoroutines(t, before)
+}
+
+// checkGoroutines: there are no more goroutines than before.
+func checkGoroutines(t *testing.T, before int) {
+	t.Helper()
 	// A goroutine that has told its end may still be counted for a moment.
 	for range 100 {
 		if runtime.NumGoroutine() <= before {
