@@ -60,20 +60,5 @@ func TestPromise11FreshPlays(t *testing.T) {
 // TestPlaysAtOnce: calls that go on beside each other return what each of them does alone.
 func TestPlaysAtOnce(t *testing.T) {
 	views := []string{"?1?", "??0/?2?/???", "????????", "1?0", "?11?", full("0")}
-	call := func(v string) string { return callChapter7(v, 2, 0, "*..", 4, 2) }
-	results := make(chan string)
-	for i := range 24 {
-		go func() { results <- call(views[i%len(views)]) }()
-	}
-	count := map[string]int{}
-	for range 24 {
-		count[<-results]++
-	}
-	for _, v := range views {
-		alone := call(v)
-		// Two of the views may have the same results, if both fail.
-		if count[alone]%4 != 0 || count[alone] == 0 {
-			t.Errorf("%s: %d of 4 calls at once return %.200s", v, count[alone], alone)
-		}
-	}
+	checkAtOnce(t, len(views), func(i int) string { return callChapter7(views[i], 2, 0, "*..", 4, 2) })
 }

@@ -45,18 +45,5 @@ func TestPromise11FreshCounts(t *testing.T) {
 // TestCountsAtOnce: calls that go on beside each other return what each of them does alone.
 func TestCountsAtOnce(t *testing.T) {
 	sizes := [][2]int{{1, 1}, {3, 3}, {4, 3}, {2, 6}, {8, 1}, {8, 8}}
-	call := func(i int) string { return callChapter5(sizes[i][0], sizes[i][1], 1, 0, 1, 3, "*..") }
-	results := make(chan string)
-	for i := range 24 {
-		go func() { results <- call(i % len(sizes)) }()
-	}
-	count := map[string]int{}
-	for range 24 {
-		count[<-results]++
-	}
-	for i, size := range sizes {
-		if alone := call(i); count[alone] != 4 {
-			t.Errorf("%v: %d of 4 calls at once return %.200s", size, count[alone], alone)
-		}
-	}
+	checkAtOnce(t, len(sizes), func(i int) string { return callChapter5(sizes[i][0], sizes[i][1], 1, 0, 1, 3, "*..") })
 }

@@ -92,19 +92,6 @@ func TestNothingShiftsOn(t *testing.T) {
 
 // TestJoinedAtOnce: calls that go on beside each other return what each of them does alone.
 func TestJoinedAtOnce(t *testing.T) {
-	boards := []string{"*../.../...", "*.*./.*.*/*.*./.*.*", "*..*./.**../*.*.*/*...*", "......../..*...../........", full("*"), "***/***/**."}
-	call := func(b string) string { return callChapter8(b, boards[0], 3, 2, 4) }
-	results := make(chan string)
-	for i := range 24 {
-		go func() { results <- call(boards[i%len(boards)]) }()
-	}
-	count := map[string]int{}
-	for range 24 {
-		count[<-results]++
-	}
-	for _, b := range boards {
-		if alone := call(b); count[alone] != 4 {
-			t.Errorf("%s: %d of 4 calls at once return %.200s", b, count[alone], alone)
-		}
-	}
+	boards := []string{"*../.../...", "*.*./.*.*/*.*./.*.*", "*..*./.**../*.*.*/*...*", "......../......../........", full("*"), "***/***/**."}
+	checkAtOnce(t, len(boards), func(i int) string { return callChapter8(boards[i], boards[0], 3, 2, 4) })
 }

@@ -60,17 +60,5 @@ func TestPromise11FreshFinds(t *testing.T) {
 // TestRulesAtOnce: calls that go on beside each other return what each of them does alone.
 func TestRulesAtOnce(t *testing.T) {
 	all := []string{"?1?", "???/121", "?21?/??.*/1.2?", "0*?0", "????/1131/????", full("?")}
-	results := make(chan string)
-	for i := range 24 {
-		go func() { results <- callWithNotes(all[i%len(all)], 0, 1, []int{0}, "...") }()
-	}
-	count := map[string]int{}
-	for range 24 {
-		count[<-results]++
-	}
-	for _, v := range all {
-		if alone := callWithNotes(v, 0, 1, []int{0}, "..."); count[alone] != 4 {
-			t.Errorf("%s: %d of 4 calls at once return %.200s", v, count[alone], alone)
-		}
-	}
+	checkAtOnce(t, len(all), func(i int) string { return callWithNotes(all[i], 0, 1, []int{0}, "...") })
 }

@@ -61,18 +61,5 @@ func TestPromise11FreshStrips(t *testing.T) {
 // TestStripsAtOnce: calls that go on beside each other return what each of them does alone.
 func TestStripsAtOnce(t *testing.T) {
 	all := []string{"?", "?1?1?", "??1??", "2?", strings.Repeat("?", 40), strings.Repeat("?1", 20)}
-	call := func(s string) string { return callChapter6(s, "*..*.", 1, len(s), 3, []int{1}) }
-	results := make(chan string)
-	for i := range 24 {
-		go func() { results <- call(all[i%len(all)]) }()
-	}
-	count := map[string]int{}
-	for range 24 {
-		count[<-results]++
-	}
-	for _, s := range all {
-		if alone := call(s); count[alone] != 4 {
-			t.Errorf("%s: %d of 4 calls at once return %.200s", s, count[alone], alone)
-		}
-	}
+	checkAtOnce(t, len(all), func(i int) string { return callChapter6(all[i], "*..*.", 1, len(all[i]), 3, []int{1}) })
 }

@@ -5,6 +5,7 @@ import (
 	"math"
 	"runtime"
 	"slices"
+	"sync"
 	"testing"
 	"time"
 
@@ -97,17 +98,21 @@ func checkGoroutines(t *testing.T, before int) {
 // TestCallsAtOnce: calls that go on beside each other return what each of them does alone.
 func TestCallsAtOnce(t *testing.T) {
 	views := []string{"?1?", "??0/?2?/???", "???/121", "1?0", "?????/1???1/?????", full("0")}
-	results := make(chan string)
-	for i := range 24 {
-		go func() { results <- callWithView(views[i%len(views)], -1, 0, ".") }()
+	checkAtOnce(t, len(views), func(i int) string { return callWithView(views[i], -1, 0, ".") })
+}
+
+// checkAtOnce makes each of some calls four times, all of them beside each other, and holds what they return against what each of them does alone.
+func checkAtOnce(t *testing.T, count int, call func(i int) string) {
+	t.Helper()
+	results := make([]string, 4*count)
+	var all sync.WaitGroup
+	for k := range results {
+		all.Go(func() { results[k] = call(k % count) })
 	}
-	count := map[string]int{}
-	for range 24 {
-		count[<-results]++
-	}
-	for _, v := range views {
-		if alone := callWithView(v, -1, 0, "."); count[alone] != 4 {
-			t.Errorf("%s: %d of 4 calls at once return %.200s", v, count[alone], alone)
+	all.Wait()
+	for k, got := range results {
+		if alone := call(k % count); got != alone {
+			t.Errorf("the call %d: %.200s at once, %.200s alone", k%count, got, alone)
 		}
 	}
 }
